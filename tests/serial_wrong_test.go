@@ -19,8 +19,9 @@ func TestSerialOfARightOne(t *testing.T) {
 	wrongRun(t, func(p *impl.Set) {}).returns(t, 5, row(1, 1, 1))
 }
 
-func TestSerialOfNoTree(t *testing.T) {
-	for _, how := range []func(p *impl.Set){
+// noTreeWays each make wrongSrc's set one that is no tree set.
+func noTreeWays() []func(p *impl.Set) {
+	return []func(p *impl.Set){
 		func(p *impl.Set) { p.L[0].Kind = 99 },
 		func(p *impl.Set) { p.L[0].Kind = -1 },
 		func(p *impl.Set) { p.L[len(p.L)-1].Kind = 28 },
@@ -38,7 +39,11 @@ func TestSerialOfNoTree(t *testing.T) {
 		func(p *impl.Set) { p.Procs[0].Body = 0 },
 		func(p *impl.Set) { p.Procs[1].Name = strings.Repeat("n", 4*impl.MaxSrc) },
 		func(p *impl.Set) { p.Procs = append(p.Procs, p.Procs[2]) },
-	} {
+	}
+}
+
+func TestSerialOfNoTree(t *testing.T) {
+	for _, how := range noTreeWays() {
 		s := wrongRun(t, how)
 		if plainTree(s.p) {
 			t.Errorf("a tree set: %v", s.p)
@@ -56,36 +61,47 @@ func TestSerialOfNoTree(t *testing.T) {
 	serial{p: signsSet(impl.MaxTree + 1)}.isRefused(t)
 }
 
-// Also where the procedure that is to be run is not the one that TargetOk refuses.
-func TestSerialOfWhatMayNotBeRun(t *testing.T) {
-	read := func(table int) func(p *impl.Set) {
-		return func(p *impl.Set) { p.L[slices.IndexFunc(p.L, isKind(impl.NkRead))].N = table }
-	}
-	write := func(table int) func(p *impl.Set) {
-		return func(p *impl.Set) { p.L[slices.IndexFunc(p.L, isKind(impl.NkWrite))].N = table }
-	}
-	rounds := func(n int) func(p *impl.Set) {
-		return func(p *impl.Set) { p.L[slices.IndexFunc(p.L, isKind(impl.NkFor))].N = n }
-	}
-	procs := func(n int) func(p *impl.Set) {
-		return func(p *impl.Set) {
-			for len(p.Procs) < n {
-				p.L = append(p.L, kidsNode(impl.NkBlock))
-				p.Procs = append(p.Procs, impl.Proc{Name: "more", Body: len(p.L) - 1})
-			}
+func withTable(kind, table int) func(p *impl.Set) {
+	return func(p *impl.Set) { p.L[slices.IndexFunc(p.L, isKind(kind))].N = table }
+}
+
+func withRounds(n int) func(p *impl.Set) {
+	return func(p *impl.Set) { p.L[slices.IndexFunc(p.L, isKind(impl.NkFor))].N = n }
+}
+
+func withProcs(n int) func(p *impl.Set) {
+	return func(p *impl.Set) {
+		for len(p.Procs) < n {
+			p.L = append(p.L, kidsNode(impl.NkBlock))
+			p.Procs = append(p.Procs, impl.Proc{Name: "more", Body: len(p.L) - 1})
 		}
 	}
-	params := func(n int) func(p *impl.Set) {
-		return func(p *impl.Set) { p.Procs[1].Params = slices.Repeat([]string{"a"}, n) }
+}
+
+func withParams(n int) func(p *impl.Set) {
+	return func(p *impl.Set) { p.Procs[1].Params = slices.Repeat([]string{"a"}, n) }
+}
+
+// noTargetWays each make wrongSrc's set a tree set that may not be run.
+func noTargetWays() []func(p *impl.Set) {
+	return []func(p *impl.Set){
+		withTable(impl.NkRead, 4), withTable(impl.NkRead, 5), withTable(impl.NkRead, -1), withTable(impl.NkWrite, 5), withTable(impl.NkWrite, -1), withTable(impl.NkWrite, math.MaxInt),
+		withRounds(0), withRounds(-1), withRounds(impl.MaxTimes + 1), withRounds(math.MinInt), withProcs(impl.MaxProcs + 1), withParams(impl.MaxParams + 1),
 	}
-	for _, how := range []func(p *impl.Set){read(4), read(5), read(-1), write(5), write(-1), write(math.MaxInt), rounds(0), rounds(-1), rounds(impl.MaxTimes + 1), rounds(math.MinInt), procs(impl.MaxProcs + 1), params(impl.MaxParams + 1)} {
+}
+
+// Also where the procedure that is to be run is not the one that TargetOk refuses.
+func TestSerialOfWhatMayNotBeRun(t *testing.T) {
+	for _, how := range noTargetWays() {
 		s := wrongRun(t, how)
 		if !plainTree(s.p) || plainTargetOk(s.p) {
 			t.Errorf("no tree set, or one that may be run: %v", s.p)
 		}
 		s.isRefused(t)
 	}
-	for _, how := range []func(p *impl.Set){read(0), read(3), write(0), write(4), rounds(1), rounds(impl.MaxTimes), procs(impl.MaxProcs), params(impl.MaxParams), params(0)} {
+	for _, how := range []func(p *impl.Set){
+		withTable(impl.NkRead, 0), withTable(impl.NkRead, 3), withTable(impl.NkWrite, 0), withTable(impl.NkWrite, 4), withRounds(1), withRounds(impl.MaxTimes), withProcs(impl.MaxProcs), withParams(impl.MaxParams), withParams(0),
+	} {
 		wrongRun(t, how).returns(t, 5, row(1, 1, 1))
 	}
 	// As many Params as args, and yet too many.
